@@ -6,6 +6,7 @@ import (
 	"unicode/utf8"
 
 	"moraine/api"
+	"moraine/fault"
 )
 
 // maxDigits is how many digits a char's number has at most.
@@ -17,7 +18,7 @@ func (s *scan) escaped(mark byte) (rune, error) {
 	backslash := s.at - 1
 	letter, ok := s.take()
 	if !ok {
-		return 0, errno(api.ErrEnd)
+		return 0, fault.Of(api.ErrEnd)
 	}
 	switch letter {
 	case 'n':
@@ -40,7 +41,7 @@ func (s *scan) escaped(mark byte) (rune, error) {
 	case '"', '\\':
 		return rune(letter), nil
 	}
-	return 0, fault{backslash, errno(api.ErrForm)}
+	return 0, fault.At(backslash, fault.Of(api.ErrForm))
 }
 
 // char answers a char's token, and goes over it; #\ has been gone over.
@@ -48,14 +49,14 @@ func (s *scan) char() (api.Token, error) {
 	begin := s.at
 	_, size := utf8.DecodeRuneInString(s.rest())
 	if size == 0 {
-		return api.Token{}, errno(api.ErrEnd)
+		return api.Token{}, fault.Of(api.ErrEnd)
 	}
 	// The first char is the token's, even if it is a delimiter.
 	s.at += size
 	s.upTo(delimiters)
 	c, ok := meant(s.text[begin:s.at])
 	if !ok {
-		return api.Token{}, errno(api.ErrForm)
+		return api.Token{}, fault.Of(api.ErrForm)
 	}
 	return datumToken(api.Datum{Kind: api.DatChar, C: c}), nil
 }

@@ -4,6 +4,7 @@ import (
 	"strings"
 
 	"moraine/api"
+	"moraine/fault"
 )
 
 // The bytes that part tokens, and those behind which a token does not go on.
@@ -60,7 +61,7 @@ func (s *scan) goOver() error {
 			s.upTo("\n")
 		case s.skip("#|"):
 			if !s.comment() {
-				return fault{begin, errno(api.ErrEnd)}
+				return fault.At(begin, fault.Of(api.ErrEnd))
 			}
 		default:
 			return nil

@@ -6,6 +6,7 @@ import (
 
 	"moraine/api"
 	"moraine/datum"
+	"moraine/fault"
 	"moraine/num"
 )
 
@@ -67,7 +68,7 @@ func bare(part string) (api.Token, error) {
 		return datumToken(api.Datum{Kind: api.DatNo}), nil
 	}
 	if strings.HasPrefix(part, "#") {
-		return api.Token{}, errno(api.ErrForm)
+		return api.Token{}, fault.Of(api.ErrForm)
 	}
 	n, e := num.Parse(part)
 	switch e {
@@ -76,7 +77,7 @@ func bare(part string) (api.Token, error) {
 	case api.ErrForm:
 		return textToken(datum.Sym(part))
 	}
-	return api.Token{}, errno(e)
+	return api.Token{}, fault.Of(e)
 }
 
 // quoted answers the token that goes on up to the next mark, of what makes of
@@ -87,7 +88,7 @@ func (s *scan) quoted(mark byte, makes func(string) api.Datum) (api.Token, error
 		next, ok := s.take()
 		switch {
 		case !ok:
-			return api.Token{}, errno(api.ErrEnd)
+			return api.Token{}, fault.Of(api.ErrEnd)
 		case next == mark:
 			return textToken(makes(string(text)))
 		case next == '\\':
@@ -107,9 +108,9 @@ func (s *scan) quoted(mark byte, makes func(string) api.Datum) (api.Token, error
 func textToken(d api.Datum) (api.Token, error) {
 	switch {
 	case !utf8.ValidString(d.T), d.Kind == api.DatSym && d.T == "":
-		return api.Token{}, errno(api.ErrForm)
+		return api.Token{}, fault.Of(api.ErrForm)
 	case utf8.RuneCountInString(d.T) > api.MaxObject:
-		return api.Token{}, errno(api.ErrBig)
+		return api.Token{}, fault.Of(api.ErrBig)
 	}
 	return datumToken(d), nil
 }

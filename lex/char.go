@@ -6,6 +6,7 @@ import (
 	"unicode/utf8"
 
 	"moraine/api"
+	"moraine/charname"
 	"moraine/fault"
 )
 
@@ -70,7 +71,7 @@ func meant(name string) (rune, bool) {
 	if digits, ok := strings.CutPrefix(name, "x"); ok {
 		return numbered(digits)
 	}
-	return called(name)
+	return charname.Char(name)
 }
 
 // numbered answers the char of a number to the base 16.
@@ -81,29 +82,4 @@ func numbered(digits string) (rune, bool) {
 	n, err := strconv.ParseUint(digits, 16, 32)
 	c := rune(n)
 	return c, err == nil && utf8.ValidRune(c)
-}
-
-// called answers the char that has a name.
-func called(name string) (rune, bool) {
-	switch name {
-	case "nul":
-		return 0, true
-	case "alarm":
-		return 7, true
-	case "backspace":
-		return 8, true
-	case "tab":
-		return 9, true
-	case "newline":
-		return 10, true
-	case "return":
-		return 13, true
-	case "escape":
-		return 27, true
-	case "space":
-		return 32, true
-	case "delete":
-		return 127, true
-	}
-	return 0, false
 }

@@ -13,6 +13,7 @@ import (
 	"moraine/api"
 	"moraine/datum"
 	"moraine/lex"
+	"moraine/sample"
 )
 
 // The model is the chapter's words as patterns, which share nothing with the
@@ -290,19 +291,5 @@ func wildTexts(count, most int) iter.Seq[string] {
 // shortTexts are all texts of at most that many bytes of those that tell
 // something.
 func shortTexts(most int) iter.Seq[string] {
-	return func(yield func(string) bool) {
-		last := []string{""}
-		for range most + 1 {
-			var next []string
-			for _, s := range last {
-				if !yield(s) {
-					return
-				}
-				for _, c := range []byte("#|\\\"(];\n x4a,@.-'t\xff") {
-					next = append(next, s+string([]byte{c}))
-				}
-			}
-			last = next
-		}
-	}
+	return sample.Rows(most, strings.Split("#|\\\"(];\n x4a,@.-'t\xff", "")...)
 }

@@ -5,28 +5,20 @@ import (
 	"math/rand/v2"
 	"slices"
 	"strings"
+
+	"moraine/sample"
 )
 
 // opening are the tokens with which something opens.
 func opening() []string { return []string{"(", "[", "#(", "'", "`", ",", ",@"} }
 
-// rows are all texts of at most that many of pieces, parted by blanks.
-func rows(most int, pieces ...string) iter.Seq[string] {
-	return func(yield func(string) bool) {
-		last := []string{""}
-		for range most + 1 {
-			var next []string
-			for _, s := range last {
-				if !yield(s) {
-					return
-				}
-				for _, p := range pieces {
-					next = append(next, s+p+" ")
-				}
-			}
-			last = next
-		}
+// rows are all texts of at most that many of tokens, parted by blanks.
+func rows(most int, tokens ...string) iter.Seq[string] {
+	var pieces []string
+	for _, token := range tokens {
+		pieces = append(pieces, token+" ")
 	}
+	return sample.Rows(most, pieces...)
 }
 
 // A maker makes texts by a fixed rule.

@@ -6,6 +6,7 @@ import (
 	"testing"
 
 	"moraine/api"
+	"moraine/sample"
 	"moraine/seg"
 )
 
@@ -78,7 +79,7 @@ func TestP7_5CopyOfFull(t *testing.T) {
 }
 
 func TestP7_5NotMade(t *testing.T) {
-	args := append(far(), -1, 0, 1, 4, 5, 8, 64)
+	args := append(sample.Far(), -1, 0, 1, 4, 5, 8, 64)
 	for name, m := range map[string]*seg.Mem{"nil": nil, "a Mem that New did not make": {}} {
 		for _, a := range args {
 			for _, b := range args {

@@ -1,149 +1,19 @@
 package seg_test
 
 import (
-	"math"
 	"math/rand/v2"
 	"slices"
 	"testing"
 
 	"moraine/api"
+	"moraine/pieces"
 	"moraine/seg"
 )
-
-// A piece is a segment that is taken; its words are those that are used.
-type piece struct {
-	seg, gen, kind int
-	words          []api.Word
-	cards          [4]int
-}
-
-// A model is a memory as the chapter tells of it: its pieces in the order in
-// which they were taken. What is not among them is free.
-type model struct {
-	limit  int
-	pieces []piece
-}
-
-func (m *model) piece(seg int) *piece {
-	for i := range m.pieces {
-		if m.pieces[i].seg == seg {
-			return &m.pieces[i]
-		}
-	}
-	return nil
-}
-
-func (m *model) word(addr int) *api.Word {
-	for i, p := range m.pieces {
-		if place := addr - 64*p.seg; addr >= 0 && place >= 0 && place < len(p.words) {
-			return &m.pieces[i].words[place]
-		}
-	}
-	return nil
-}
-
-func (m *model) Take(gen, kind int) (int, api.Errno) {
-	if gen < 0 || gen > 4 || kind < 0 || kind > 3 {
-		return 0, api.ErrArg
-	}
-	for seg := range m.limit {
-		if m.piece(seg) == nil {
-			m.pieces = append(m.pieces, piece{seg: seg, gen: gen, kind: kind, cards: [4]int{5, 5, 5, 5}})
-			return seg, api.OK
-		}
-	}
-	return 0, api.ErrFull
-}
-
-func (m *model) Give(seg int) api.Errno {
-	for i, p := range m.pieces {
-		if p.seg == seg {
-			m.pieces = slices.Concat(m.pieces[:i], m.pieces[i+1:])
-			return api.OK
-		}
-	}
-	return api.ErrNone
-}
-
-func (m *model) Seg(seg int) (api.Segment, bool) {
-	p := m.piece(seg)
-	if p == nil {
-		return api.Segment{}, false
-	}
-	return api.Segment{Gen: p.gen, Kind: p.kind, N: len(p.words), Cards: p.cards}, true
-}
-
-func (m *model) Taken(gens ...int) []int {
-	var l []int
-	for _, p := range m.pieces {
-		if len(gens) == 0 || slices.Contains(gens, p.gen) {
-			l = append(l, p.seg)
-		}
-	}
-	return l
-}
-
-func (m *model) Free() int { return m.limit - len(m.pieces) }
-
-func (m *model) Limit() int { return m.limit }
-
-func (m *model) Bump(seg, n int) (int, api.Errno) {
-	p := m.piece(seg)
-	if p == nil {
-		return 0, api.ErrNone
-	}
-	if n < 1 {
-		return 0, api.ErrArg
-	}
-	if n > 64 || n+len(p.words) > 64 {
-		return 0, api.ErrFull
-	}
-	addr := 64*seg + len(p.words)
-	p.words = append(p.words, make([]api.Word, n)...)
-	return addr, api.OK
-}
-
-func (m *model) Read(addr int) (api.Word, api.Errno) {
-	w := m.word(addr)
-	if w == nil {
-		return 0, api.ErrAddr
-	}
-	return *w, api.OK
-}
-
-func (m *model) Write(addr int, w api.Word) api.Errno {
-	old := m.word(addr)
-	if old == nil {
-		return api.ErrAddr
-	}
-	*old = w
-	return api.OK
-}
-
-func (m *model) Mark(seg, card, mark int) api.Errno {
-	p := m.piece(seg)
-	if p == nil {
-		return api.ErrNone
-	}
-	if card < 0 || card > 3 || mark < 0 || mark > 5 {
-		return api.ErrArg
-	}
-	p.cards[card] = mark
-	return api.OK
-}
-
-func (m *model) Copy() *model {
-	c := &model{limit: m.limit, pieces: slices.Clone(m.pieces)}
-	for i, p := range c.pieces {
-		c.pieces[i].words = slices.Clone(p.words)
-	}
-	return c
-}
 
 // A both is a memory, and what it is to be.
 type both struct {
 	*seg.Mem
-	want *model
+	want *pieces.Mem
 }
 
 // fresh is a memory of that limit, all free.
@@ -153,7 +23,7 @@ func fresh(t *testing.T, limit int) both {
 	if m == nil || e != api.OK {
 		t.Fatalf("New(%d): %v, %d", limit, m != nil, e)
 	}
-	return both{m, &model{limit: limit}}
+	return both{m, pieces.New(limit)}
 }
 
 func (b both) take(t *testing.T, gen, kind int) int {
@@ -220,18 +90,8 @@ func (b both) is(t *testing.T, seg int) {
 // check fails, unless all that can be told of the memory is as it is to be.
 func (b both) check(t *testing.T) {
 	t.Helper()
-	if b.Limit() != b.want.limit || b.Free() != b.want.Free() {
-		t.Fatalf("%d of %d free; want %d of %d", b.Free(), b.Limit(), b.want.Free(), b.want.limit)
-	}
-	b.tells(t)
-	for gen := -1; gen <= 5; gen++ {
-		b.tells(t, gen)
-	}
-	for seg := -2; seg < b.want.limit+2; seg++ {
-		b.is(t, seg)
-	}
-	for addr := -70; addr < 64*b.want.limit+70; addr++ {
-		b.read(t, addr)
+	if unlike := b.want.Unlike(b.Mem); unlike != "" {
+		t.Fatal(unlike)
 	}
 }
 
@@ -242,19 +102,6 @@ func (b both) copy(t *testing.T) both {
 		t.Fatalf("a copy is none")
 	}
 	return c
-}
-
-// far are numbers that are no generation, kind, segment, card, mark or address;
-// some of them would be one, if it were reckoned with less bits.
-func far() []int {
-	l := []int{math.MinInt, math.MinInt + 1, math.MaxInt - 1, math.MaxInt, -1024, -65536, 65536, 1 << 20}
-	for _, bits := range []int{8, 16, 31, 32, 58, 59, 61, 62} {
-		l = append(l, -1<<bits, -1<<bits-1, 1<<bits|1<<20, 1<<bits+1<<20)
-		if bits > 16 {
-			l = append(l, 1<<bits, 1<<bits+1, 1<<bits+64, -1<<bits+1)
-		}
-	}
-	return l
 }
 
 // used is a memory with something of everything: segments of all generations
@@ -289,7 +136,7 @@ func (w wild) word() api.Word { return api.Word(w.Uint64() >> w.IntN(64)) }
 // one makes a call on b, which is held against what it is to be.
 func (w wild) one(t *testing.T, b both) {
 	t.Helper()
-	n := b.want.limit
+	n := b.want.Limit()
 	switch w.IntN(12) {
 	case 0, 1:
 		b.take(t, w.near(5), w.near(4))

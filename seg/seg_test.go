@@ -6,6 +6,7 @@ import (
 	"testing"
 
 	"moraine/api"
+	"moraine/sample"
 	"moraine/seg"
 )
 
@@ -24,7 +25,7 @@ func TestP7_1New(t *testing.T) {
 }
 
 func TestP7_1NewWrong(t *testing.T) {
-	for _, limit := range append(far(), -8, -1, 0, 1, 6, 7, 1025, 1026, 2048) {
+	for _, limit := range append(sample.Far(), -8, -1, 0, 1, 6, 7, 1025, 1026, 2048) {
 		if m, e := seg.New(limit); m != nil || e != api.ErrArg {
 			t.Errorf("New(%d): %v, %d", limit, m != nil, e)
 		}
@@ -64,7 +65,7 @@ func TestP7_2TakeWrong(t *testing.T) {
 		full.take(t, 1, 1)
 	}
 	for _, b := range []both{fresh(t, 8), some, full} {
-		for _, wrong := range append(far(), -2, -1, 5, 6, 7, 8) {
+		for _, wrong := range append(sample.Far(), -2, -1, 5, 6, 7, 8) {
 			for _, c := range [][2]int{{wrong, 0}, {wrong, 3}, {wrong, wrong}, {wrong, -1}, {0, wrong}, {4, wrong}, {-1, wrong}} {
 				if n, e := b.Take(c[0], c[1]); n != 0 || e != api.ErrArg {
 					t.Errorf("Take(%d, %d): %d, %d", c[0], c[1], n, e)
@@ -120,7 +121,7 @@ func TestP7_2Give(t *testing.T) {
 
 func TestP7_2GiveWrong(t *testing.T) {
 	for _, b := range []both{fresh(t, 8), used(t, 8), used(t, 64)} {
-		for _, wrong := range append(far(), -1, b.Limit(), b.Limit()+1) {
+		for _, wrong := range append(sample.Far(), -1, b.Limit(), b.Limit()+1) {
 			if e := b.Give(wrong); e != api.ErrNone {
 				t.Errorf("Give(%d): %d", wrong, e)
 			}
@@ -198,7 +199,7 @@ func TestP7_2TakenAnew(t *testing.T) {
 
 func TestP7_2Seg(t *testing.T) {
 	b := eleven(t)
-	for _, wrong := range append(far(), -1, 9, 10, 11, 12) {
+	for _, wrong := range append(sample.Far(), -1, 9, 10, 11, 12) {
 		if s, ok := b.Seg(wrong); s != (api.Segment{}) || ok {
 			t.Errorf("Seg(%d): %+v, %v", wrong, s, ok)
 		}
@@ -251,8 +252,8 @@ func TestP7_2Taken(t *testing.T) {
 		{[]int{-1}, nil},
 		{[]int{-1, 5, 6, 64}, nil},
 		{[]int{5, 2, -1}, []int{7}},
-		{far(), nil},
-		{append(far(), 4), []int{4}},
+		{sample.Far(), nil},
+		{append(sample.Far(), 4), []int{4}},
 	} {
 		if l := b.Taken(c.gens...); !slices.Equal(l, c.want) {
 			t.Errorf("Taken(%v): %v; want %v", c.gens, l, c.want)
@@ -374,7 +375,7 @@ func TestP7_3Wrong(t *testing.T) {
 		}
 	}
 	for _, n := range []int{0, -1, 1, 2, 64, 65, math.MinInt, math.MaxInt} {
-		for _, none := range append(far(), -1, 3, 7, 8, 9) {
+		for _, none := range append(sample.Far(), -1, 3, 7, 8, 9) {
 			if addr, e := b.Bump(none, n); addr != 0 || e != api.ErrNone {
 				t.Errorf("Bump(%d, %d): %d, %d", none, n, addr, e)
 			}
@@ -430,7 +431,7 @@ func TestP7_4Wrong(t *testing.T) {
 			b.take(t, 0, n%4)
 			b.bump(t, n, 64)
 		}
-		for _, addr := range append(far(), -1, -63, -64, -65, 64*limit, 64*limit+1, 64*limit+63) {
+		for _, addr := range append(sample.Far(), -1, -63, -64, -65, 64*limit, 64*limit+1, 64*limit+63) {
 			w, e := b.Read(addr)
 			if f := b.Write(addr, 3); w != 0 || e != api.ErrAddr || f != api.ErrAddr {
 				t.Errorf("Read(%d): %d, %d; Write: %d", addr, w, e, f)
@@ -512,8 +513,8 @@ func TestP7_4MarkWrong(t *testing.T) {
 		b.mark(t, n, n, n)
 	}
 	b.give(t, 2)
-	wrongCard := append(far(), -1, 4, 5, 16, 63)
-	wrongMark := append(far(), -1, 6, 7, 8)
+	wrongCard := append(sample.Far(), -1, 4, 5, 16, 63)
+	wrongMark := append(sample.Far(), -1, 6, 7, 8)
 	for _, n := range []int{0, 1, 3} {
 		for _, card := range wrongCard {
 			for _, mark := range []int{0, 5, 6, -1} {
@@ -530,7 +531,7 @@ func TestP7_4MarkWrong(t *testing.T) {
 			}
 		}
 	}
-	for _, none := range append(far(), -1, 2, 4, 7, 8) {
+	for _, none := range append(sample.Far(), -1, 2, 4, 7, 8) {
 		for _, c := range [][2]int{{0, 0}, {3, 5}, {4, 0}, {0, 6}, {-1, -1}} {
 			if e := b.Mark(none, c[0], c[1]); e != api.ErrNone {
 				t.Errorf("Mark(%d, %d, %d): %d", none, c[0], c[1], e)
